@@ -1,7 +1,10 @@
 // Package calendar: days and dates: see doc/02-calendar.md.
 package calendar
 
-import "paycycle/api"
+import (
+	"paycycle/api"
+	"paycycle/bounds"
+)
 
 const (
 	firstYear = 2000
@@ -11,7 +14,7 @@ const (
 
 // Civil date of a day.
 func Civil(day int) (api.Date, api.Errno) {
-	if !isDay(day) {
+	if !bounds.IsDay(day) {
 		return api.Date{}, api.ErrRange
 	}
 	starts := yearStarts()
@@ -42,7 +45,7 @@ func Day(d api.Date) (int, api.Errno) {
 
 // Weekday of a day.
 func Weekday(day int) (int, api.Errno) {
-	if !isDay(day) {
+	if !bounds.IsDay(day) {
 		return 0, api.ErrRange
 	}
 	return weekday(day), api.OK
@@ -61,8 +64,6 @@ func Months(day, n int) (int, api.Errno) {
 	year, month := firstYear+months/12, months%12+1
 	return Day(api.Date{Year: year, Month: month, Day: min(d.Day, monthDays(year, month))})
 }
-
-func isDay(day int) bool { return day >= 0 && day <= api.MaxDay }
 
 func isDate(d api.Date) bool {
 	return d.Year >= firstYear && d.Year < firstYear+years &&

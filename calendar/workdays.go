@@ -1,6 +1,9 @@
 package calendar
 
-import "paycycle/api"
+import (
+	"paycycle/api"
+	"paycycle/bounds"
+)
 
 // Workdays from a day to another one.
 func Workdays(from, to int, holidays []int) (int, api.Errno) {
@@ -36,7 +39,7 @@ func Last(day int, holidays []int) (int, api.Errno) {
 // firstWorkday at a day or, step by step, beyond it.
 func firstWorkday(day, step int, holidays []int) (int, api.Errno) {
 	free := freeDays(holidays)
-	for ; isDay(day); day += step {
+	for ; bounds.IsDay(day); day += step {
 		if isWorkday(day, free) {
 			return day, api.OK
 		}
@@ -59,7 +62,7 @@ func check(holidays []int, asked ...int) api.Errno {
 
 func areDays(days ...int) bool {
 	for _, day := range days {
-		if !isDay(day) {
+		if !bounds.IsDay(day) {
 			return false
 		}
 	}

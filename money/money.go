@@ -1,7 +1,10 @@
 // Package money: money, and how it is rounded: see doc/01-money.md.
 package money
 
-import "paycycle/api"
+import (
+	"paycycle/api"
+	"paycycle/bounds"
+)
 
 // rateParts is what a rate is in parts of.
 const rateParts = 10000
@@ -22,15 +25,13 @@ func Part(amount, rate, way int) (int, api.Errno) {
 	switch {
 	case !isWay(way):
 		return 0, api.ErrKind
-	case !isMoney(amount) || !isRate(rate):
+	case !bounds.IsMoney(amount) || !isRate(rate):
 		return 0, api.ErrRange
 	}
 	return rounded(amount*rate, rateParts, way), api.OK
 }
 
 func isWay(way int) bool { return way >= api.RoundDown && way <= api.RoundHalfEven }
-
-func isMoney(amount int) bool { return amount >= -api.MaxMoney && amount <= api.MaxMoney }
 
 func isRate(rate int) bool { return rate >= 0 && rate <= api.MaxRate }
 

@@ -5,11 +5,12 @@ import (
 	"strings"
 
 	"paycycle/api"
+	"paycycle/bounds"
 )
 
 // Print an amount.
 func Print(amount int) (string, api.Errno) {
-	if !isMoney(amount) {
+	if !bounds.IsMoney(amount) {
 		return "", api.ErrRange
 	}
 	sign := ""
