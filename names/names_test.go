@@ -1,0 +1,38 @@
+package names
+
+import (
+	"maps"
+	"testing"
+)
+
+func itself(s string) string { return s }
+
+func TestPlaces(t *testing.T) {
+	for _, c := range []struct {
+		l    []string
+		want map[string]int
+	}{
+		{nil, nil},
+		{[]string{"a"}, map[string]int{"a": 0}},
+		{[]string{"b", "a", "c"}, map[string]int{"b": 0, "a": 1, "c": 2}},
+		{[]string{"a", "b", "a", "", "b"}, map[string]int{"a": 2, "b": 4, "": 3}},
+	} {
+		if got := Places(c.l, itself); !maps.Equal(got, c.want) {
+			t.Errorf("Places(%q) = %v; want %v", c.l, got, c.want)
+		}
+	}
+}
+
+func TestRise(t *testing.T) {
+	for _, c := range []struct {
+		l    []string
+		want bool
+	}{
+		{nil, true}, {[]string{""}, true}, {[]string{"z"}, true}, {[]string{"a", "b", "c"}, true}, {[]string{"a", "aa", "b"}, true}, {[]string{"ab", "b"}, true},
+		{[]string{"a", "a"}, false}, {[]string{"b", "a"}, false}, {[]string{"aa", "a"}, false}, {[]string{"a", "b", "b"}, false}, {[]string{"a", "c", "b"}, false}, {[]string{"b", "a", "c"}, false},
+	} {
+		if got := Rise(c.l, itself); got != c.want {
+			t.Errorf("Rise(%q) = %v", c.l, got)
+		}
+	}
+}
