@@ -1,6 +1,8 @@
 // Package names: where things stand by their names, for all layers alike.
 package names
 
+import "paycycle/api"
+
 // Places: where in a list each name stands; of several alike the last one.
 func Places[T any](l []T, name func(T) string) map[string]int {
 	places := make(map[string]int, len(l))
@@ -18,4 +20,18 @@ func Rise[T any](l []T, name func(T) string) bool {
 		}
 	}
 	return true
+}
+
+// Meant has the places of all that names in lines may mean.
+type Meant struct{ Lines, Inputs, Tables, Years map[string]int }
+
+// MeantIn tells what names mean in lines, and in what is known.
+func MeantIn(l []api.Line, k api.Known) Meant {
+	ofAmount := func(a api.Amount) string { return a.Name }
+	return Meant{
+		Lines:  Places(l, func(line api.Line) string { return line.Name }),
+		Inputs: Places(k.Inputs, ofAmount),
+		Tables: Places(k.Tables, func(t api.Table) string { return t.Name }),
+		Years:  Places(k.Years, ofAmount),
+	}
 }

@@ -3,6 +3,8 @@ package names
 import (
 	"maps"
 	"testing"
+
+	"paycycle/api"
 )
 
 func itself(s string) string { return s }
@@ -33,6 +35,29 @@ func TestRise(t *testing.T) {
 	} {
 		if got := Rise(c.l, itself); got != c.want {
 			t.Errorf("Rise(%q) = %v", c.l, got)
+		}
+	}
+}
+
+func TestMeantIn(t *testing.T) {
+	l := []api.Line{{Name: "b"}, {Name: "a"}}
+	k := api.Known{
+		Inputs: []api.Amount{{Name: "c"}, {Name: "b"}, {Name: "i"}},
+		Tables: []api.Table{{Name: "t"}, {Name: "b"}},
+		Years:  []api.Amount{{Name: "y"}, {Name: "b"}, {Name: "c"}, {Name: "d"}},
+	}
+	got := MeantIn(l, k)
+	for _, c := range []struct {
+		what      string
+		got, want map[string]int
+	}{
+		{"Lines", got.Lines, map[string]int{"b": 0, "a": 1}},
+		{"Inputs", got.Inputs, map[string]int{"c": 0, "b": 1, "i": 2}},
+		{"Tables", got.Tables, map[string]int{"t": 0, "b": 1}},
+		{"Years", got.Years, map[string]int{"y": 0, "b": 1, "c": 2, "d": 3}},
+	} {
+		if !maps.Equal(c.got, c.want) {
+			t.Errorf("%s = %v; want %v", c.what, c.got, c.want)
 		}
 	}
 }
