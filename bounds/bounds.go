@@ -3,8 +3,20 @@ package bounds
 
 import "paycycle/api"
 
+// Days are of these years alone.
+const (
+	firstYear = 2000
+	lastYear  = 2199
+)
+
 // IsDay: is it the number of a day?
 func IsDay(n int) bool { return n >= 0 && n <= api.MaxDay }
 
+// IsYear: is it a year that has days?
+func IsYear(n int) bool { return n >= firstYear && n <= lastYear }
+
 // IsMoney: is it an amount of money?
 func IsMoney(n int) bool { return n >= -api.MaxMoney && n <= api.MaxMoney }
+
+// IsPerson: is it the number that a person may have?
+func IsPerson(n int) bool { return n >= 1 && n <= api.MaxPersons }

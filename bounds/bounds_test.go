@@ -9,17 +9,24 @@ import (
 
 func TestEdges(t *testing.T) {
 	for _, c := range []struct {
-		n          int
-		day, money bool
+		what        string
+		is          func(int) bool
+		least, most int
 	}{
-		{math.MinInt, false, false}, {-api.MaxMoney - 1, false, false}, {-api.MaxMoney, false, true}, {-1, false, true}, {0, true, true},
-		{api.MaxDay, true, true}, {api.MaxDay + 1, false, true}, {api.MaxMoney, false, true}, {api.MaxMoney + 1, false, false}, {math.MaxInt, false, false},
+		{"IsDay", IsDay, 0, api.MaxDay},
+		{"IsYear", IsYear, 2000, 2199},
+		{"IsMoney", IsMoney, -api.MaxMoney, api.MaxMoney},
+		{"IsPerson", IsPerson, 1, api.MaxPersons},
 	} {
-		if got := IsDay(c.n); got != c.day {
-			t.Errorf("IsDay(%d) = %v", c.n, got)
+		for _, n := range []int{c.least, c.least + 1, (c.least + c.most) / 2, c.most - 1, c.most} {
+			if !c.is(n) {
+				t.Errorf("%s(%d) does not hold", c.what, n)
+			}
 		}
-		if got := IsMoney(c.n); got != c.money {
-			t.Errorf("IsMoney(%d) = %v", c.n, got)
+		for _, n := range []int{math.MinInt, c.least - 1, c.most + 1, math.MaxInt} {
+			if c.is(n) {
+				t.Errorf("%s(%d) holds", c.what, n)
+			}
 		}
 	}
 }
