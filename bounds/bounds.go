@@ -18,5 +18,8 @@ func IsYear(n int) bool { return n >= firstYear && n <= lastYear }
 // IsMoney: is it an amount of money?
 func IsMoney(n int) bool { return n >= -api.MaxMoney && n <= api.MaxMoney }
 
+// IsSomeMoney: is it an amount of money, and not 0?
+func IsSomeMoney(n int) bool { return n != 0 && IsMoney(n) }
+
 // IsPerson: is it the number that a person may have?
 func IsPerson(n int) bool { return n >= 1 && n <= api.MaxPersons }

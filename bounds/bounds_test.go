@@ -30,3 +30,16 @@ func TestEdges(t *testing.T) {
 		}
 	}
 }
+
+func TestSomeMoney(t *testing.T) {
+	for _, n := range []int{-api.MaxMoney, -1, 1, api.MaxMoney} {
+		if !IsSomeMoney(n) {
+			t.Errorf("IsSomeMoney(%d) does not hold", n)
+		}
+	}
+	for _, n := range []int{math.MinInt, -api.MaxMoney - 1, 0, api.MaxMoney + 1, math.MaxInt} {
+		if IsSomeMoney(n) {
+			t.Errorf("IsSomeMoney(%d) holds", n)
+		}
+	}
+}

@@ -1,7 +1,12 @@
 // Package names: where things stand by their names, for all layers alike.
 package names
 
-import "paycycle/api"
+import (
+	"cmp"
+	"slices"
+
+	"paycycle/api"
+)
 
 // Places: where in a list each name stands; of several alike the last one.
 func Places[T any](l []T, name func(T) string) map[string]int {
@@ -20,6 +25,18 @@ func Rise[T any](l []T, name func(T) string) bool {
 		}
 	}
 	return true
+}
+
+// Amounts: what lies by names, rising by them, without what is 0.
+func Amounts(sums map[string]int) []api.Amount {
+	var l []api.Amount
+	for name, sum := range sums {
+		if sum != 0 {
+			l = append(l, api.Amount{Name: name, Money: sum})
+		}
+	}
+	slices.SortFunc(l, func(a, b api.Amount) int { return cmp.Compare(a.Name, b.Name) })
+	return l
 }
 
 // Meant has the places of all that names in lines may mean.

@@ -2,6 +2,7 @@ package names
 
 import (
 	"maps"
+	"slices"
 	"testing"
 
 	"paycycle/api"
@@ -35,6 +36,23 @@ func TestRise(t *testing.T) {
 	} {
 		if got := Rise(c.l, itself); got != c.want {
 			t.Errorf("Rise(%q) = %v", c.l, got)
+		}
+	}
+}
+
+func TestAmounts(t *testing.T) {
+	for _, c := range []struct {
+		sums map[string]int
+		want []api.Amount
+	}{
+		{nil, nil},
+		{map[string]int{"a": 0}, nil},
+		{map[string]int{"b": 1, "a": -2, "c": 0, "ab": 3, "aa": 4}, []api.Amount{{Name: "a", Money: -2}, {Name: "aa", Money: 4}, {Name: "ab", Money: 3}, {Name: "b", Money: 1}}},
+	} {
+		for range 20 {
+			if got := Amounts(c.sums); !slices.Equal(got, c.want) {
+				t.Errorf("Amounts(%v) = %v; want %v", c.sums, got, c.want)
+			}
 		}
 	}
 }
